@@ -12,29 +12,26 @@ var (
 // The standard shifts Small's last part where Big turns all three, so its distances stand apart.
 var smallShifts = [2]int{3, 10}
 
-// Turn tells x turned to the right by n, modulo 32.
 func Turn(x uint32, n int) uint32 {
-	// The lower bits of a number below 0 are those of what it leaves over from 0 on.
+	// A uint goes round at a multiple of 32, so an n below 0 keeps the remainder that is wanted.
 	k := uint(n) % size
 	return x>>k | x<<(size-k)
 }
 
-// Shift tells x shifted to the right by n; n below 0 counts as 0.
 func Shift(x uint32, n int) uint32 {
+	// Go panics at a shift by less than 0; one by 32 or more is 0 of itself.
 	return x >> uint(max(n, 0))
 }
 
-// Ch tells y's bits where x has 1, else z's.
 func Ch(x, y, z uint32) uint32 {
 	return x&y | ^x&z
 }
 
-// Maj tells bit by bit what two of the three at least have.
 func Maj(x, y, z uint32) uint32 {
 	return x&y | x&z | y&z
 }
 
-// Big tells FIPS 180-4's great sigma of x, 0 or 1; of any other which 0.
+// Big is the standard's great sigma, which rounds mix a value by.
 func Big(which int, x uint32) uint32 {
 	if !known(which) {
 		return 0
@@ -43,7 +40,7 @@ func Big(which int, x uint32) uint32 {
 	return Turn(x, by[0]) ^ Turn(x, by[1]) ^ Turn(x, by[2])
 }
 
-// Small tells FIPS 180-4's small sigma of x, 0 or 1; of any other which 0.
+// Small is the standard's small sigma, which schedules are made by.
 func Small(which int, x uint32) uint32 {
 	if !known(which) {
 		return 0
@@ -56,7 +53,6 @@ func known(which int) bool {
 	return which == 0 || which == 1
 }
 
-// Sum tells all of l together, modulo 2^32; of none 0.
 func Sum(l ...uint32) uint32 {
 	var sum uint32
 	for _, x := range l {
